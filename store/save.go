@@ -5,6 +5,7 @@ import (
 	"groyne/drive"
 	"groyne/journal"
 	"groyne/pack"
+	"groyne/sweep"
 )
 
 // Keep: records from an index on stay.
@@ -56,7 +57,7 @@ func Load(d *drive.Drive, prefix string, o Options, dump []byte, pairs []api.Pai
 		return s, api.OK
 	}
 	// What had room already would be in the way of the next Load.
-	if dead := clearAway(d, prefix); dead != api.OK {
+	if dead := sweep.Away(d, prefix); dead != api.OK {
 		return nil, dead
 	}
 	return nil, e
@@ -79,13 +80,4 @@ func load(d *drive.Drive, prefix string, o Options, f facts, writes []api.Write,
 		return nil, e
 	}
 	return s, api.OK
-}
-
-func clearAway(d *drive.Drive, prefix string) api.Errno {
-	for _, name := range d.List(prefix) {
-		if e := d.Remove(name); e != api.OK {
-			return e
-		}
-	}
-	return d.Flush()
 }
